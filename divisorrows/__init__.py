@@ -1,0 +1,1 @@
+"""Numbers and what divides them."""

@@ -1,0 +1,45 @@
+"""Totals found in plain ways, to hold the program's answers against."""
+
+
+def counted_total(n):
+    return sum(d for d in range(1, n + 1) if n % d == 0)
+
+
+def totals_up_to(last):
+    """A list whose entry n is n's total, for n from 1 to last."""
+    totals = [0] * (last + 1)
+    for d in range(1, last + 1):
+        for multiple in range(d, last + 1, d):
+            totals[multiple] += d
+    return totals
+
+
+def totals_between(first, last):
+    """A dict from each n, first to last, to its total: divisors taken in pairs, the lesser up to the root."""
+    totals = {n: 0 for n in range(first, last + 1)}
+    d = 1
+    while d * d <= last:
+        start = max(d * d, (first + d - 1) // d * d)
+        for n in range(start, last + 1, d):
+            totals[n] += d
+            if n != d * d:
+                totals[n] += n // d
+        d += 1
+    return totals
+
+
+def plain_kind(n, its_total):
+    if its_total > 2 * n:
+        return 2
+    return 1 if its_total == 2 * n else 0
+
+
+def is_prime(n):
+    if n < 2:
+        return False
+    d = 2
+    while d * d <= n:
+        if n % d == 0:
+            return False
+        d += 1
+    return True
