@@ -1,7 +1,9 @@
 """The calls: each takes whole numbers and gives back a list of whole numbers."""
 
 REFUSED = -2
+NONE_THERE = -5
 GREATEST = 1000000000
+MOST_STEPS = 64
 
 RICH = 2
 JUST = 1
@@ -20,6 +22,24 @@ def kind(n):
     if not in_range(n, 1, GREATEST):
         return [REFUSED]
     return [kind_of(n)]
+
+
+def chain(n, k):
+    """How many steps there are from n on, up to k, then what each leads to; or the refusal alone."""
+    if not in_range(n, 1, GREATEST) or not in_range(k, 0, MOST_STEPS):
+        return [REFUSED]
+    led_to = steps_from(n, k)
+    return [len(led_to)] + led_to
+
+
+def round_of(n):
+    """The least number of steps, up to 64, by which n leads to n, or -5; or the refusal."""
+    if not in_range(n, 1, GREATEST):
+        return [REFUSED]
+    led_to = steps_from(n, MOST_STEPS)
+    if n not in led_to:
+        return [NONE_THERE]
+    return [led_to.index(n) + 1]
 
 
 def in_range(number, least, greatest):
@@ -60,3 +80,21 @@ def kind_of(n):
     if found == 2 * n:
         return JUST
     return NEITHER
+
+
+def steps_from(n, most):
+    """What each step from n on leads to, in order: as many as there are, up to most."""
+    led_to = []
+    reached = n
+    while len(led_to) < most and has_step(reached):
+        reached = rest_of(reached)
+        led_to.append(reached)
+    return led_to
+
+
+def has_step(n):
+    return in_range(n, 1, GREATEST)
+
+
+def rest_of(n):
+    return total_of(n) - n

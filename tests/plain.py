@@ -1,8 +1,16 @@
-"""Totals found in plain ways, to hold the program's answers against."""
+"""Totals and steps found in plain ways, to hold the program's answers against."""
+
+import math
 
 
 def counted_total(n):
     return sum(d for d in range(1, n + 1) if n % d == 0)
+
+
+def paired_total(n):
+    """As counted_total, for great n too: each divisor up to the root brings the one that it leaves."""
+    lesser = [d for d in range(1, math.isqrt(n) + 1) if n % d == 0]
+    return sum(set(lesser) | {n // d for d in lesser})
 
 
 def totals_up_to(last):
@@ -43,3 +51,20 @@ def is_prime(n):
             return False
         d += 1
     return True
+
+
+def counted_steps(n, k, total=paired_total):
+    """What each of up to k steps from n on leads to."""
+    led_to = []
+    for i in range(k):
+        if n == 0 or n > 1000000000:
+            break
+        n = total(n) - n
+        led_to.append(n)
+    return led_to
+
+
+def counted_round(n, total=paired_total):
+    """The least number of steps, 1 to 64, that lead from n to n, or -5."""
+    led_to = counted_steps(n, 64, total)
+    return min((i + 1 for i, reached in enumerate(led_to) if reached == n), default=-5)

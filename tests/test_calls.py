@@ -6,54 +6,69 @@ import unittest
 
 from divisorrows import numbers
 
-ASKED = (1, 2, 6, 8, 12, 28, 945, 8128, 31607 ** 2, 999999937, 1000000000, 0, -1, 1000000001, -2147483648, 2147483647)
-CALLS = (numbers.total, numbers.kind)
+OUT_OF_RANGE = (0, -1, 1000000001, -2147483648, 2147483647)
+NUMBERS = (1, 2, 6, 8, 12, 25, 28, 220, 276, 562, 945, 8128, 12496, 14316, 31607 ** 2, 999999937, 1000000000)
+OF_ONE = (numbers.total, numbers.kind, numbers.round_of)
+STEPS = (0, 1, 2, 64, -1, 65, -2147483648, 2147483647)
+
+# Each call with what is handed in.
+ASKED = [(call, (n,)) for call in OF_ONE for n in NUMBERS + OUT_OF_RANGE]
+ASKED += [(numbers.chain, (n, k)) for n in NUMBERS + OUT_OF_RANGE for k in STEPS]
 
 
 class Given(unittest.TestCase):
     def test_lists_of_whole_numbers(self):
-        for call in CALLS:
-            for n in ASKED:
-                answer = call(n)
-                self.assertIs(type(answer), list)
-                for number in answer:
-                    self.assertIs(type(number), int)
+        for call, handed in ASKED:
+            answer = call(*handed)
+            self.assertIs(type(answer), list)
+            for number in answer:
+                self.assertIs(type(number), int)
 
     def test_how_many_numbers(self):
-        for n in ASKED:
-            refused = not 1 <= n <= 1000000000
-            self.assertEqual(len(numbers.total(n)), 1 if refused else 2, n)
+        for n in NUMBERS:
+            self.assertEqual(len(numbers.total(n)), 2, n)
             self.assertEqual(len(numbers.kind(n)), 1, n)
+            self.assertEqual(len(numbers.round_of(n)), 1, n)
+            for k in (0, 1, 2, 64):
+                answer = numbers.chain(n, k)
+                self.assertEqual(len(answer), answer[0] + 1, (n, k))
+
+    def test_a_refusal_is_alone(self):
+        for call in OF_ONE:
+            for n in OUT_OF_RANGE:
+                self.assertEqual(call(n), [-2], (call, n))
+        for n in OUT_OF_RANGE:
+            for k in STEPS:
+                self.assertEqual(numbers.chain(n, k), [-2], (n, k))
 
     def test_arguments_by_name(self):
         self.assertEqual(numbers.total(n=12), [0, 28])
         self.assertEqual(numbers.kind(n=12), [2])
+        self.assertEqual(numbers.chain(k=2, n=12), [2, 16, 15])
+        self.assertEqual(numbers.round_of(n=220), [2])
 
 
 class NothingKept(unittest.TestCase):
     def test_asked_again_in_other_orders(self):
-        asked = [(call, n) for call in CALLS for n in ASKED]
-        first = {pair: pair[0](pair[1]) for pair in asked}
-        interleaved = [(call, n) for n in ASKED for call in CALLS]
-        for order in (asked, asked[::-1], interleaved, interleaved[::-1], asked[1::2] + asked[::2]):
-            for call, n in order:
-                self.assertEqual(call(n), first[(call, n)], (call, n))
+        first = [(call, handed, call(*handed)) for call, handed in ASKED]
+        by_what_is_handed_in = sorted(first, key=lambda row: row[1])
+        for order in (first, first[::-1], by_what_is_handed_in, by_what_is_handed_in[::-1], first[1::2] + first[::2]):
+            for call, handed, answer in order:
+                self.assertEqual(call(*handed), answer, (call, handed))
 
     def test_changing_an_answer_changes_no_other(self):
-        for call in CALLS:
-            for n in (6, 12, 0):
-                answer = call(n)
-                kept = list(answer)
-                answer.append(7)
-                answer[0] = 99
-                self.assertEqual(call(n), kept)
+        for call, handed in ASKED:
+            answer = call(*handed)
+            kept = list(answer)
+            answer.append(7)
+            answer[0] = 99
+            self.assertEqual(call(*handed), kept, (call, handed))
 
     def test_the_module_is_left_as_it_was(self):
-        before = {name: value for name, value in vars(numbers).items() if not name.startswith("__")}
-        for call in CALLS:
-            for n in ASKED:
-                call(n)
-        after = {name: value for name, value in vars(numbers).items() if not name.startswith("__")}
+        before = {name: repr(value) for name, value in vars(numbers).items() if not name.startswith("__")}
+        for call, handed in ASKED:
+            call(*handed)
+        after = {name: repr(value) for name, value in vars(numbers).items() if not name.startswith("__")}
         self.assertEqual(before, after)
 
 
@@ -61,9 +76,8 @@ class NothingPrinted(unittest.TestCase):
     def test_no_output(self):
         out, err = io.StringIO(), io.StringIO()
         with contextlib.redirect_stdout(out), contextlib.redirect_stderr(err):
-            for call in CALLS:
-                for n in ASKED:
-                    call(n)
+            for call, handed in ASKED:
+                call(*handed)
         self.assertEqual((out.getvalue(), err.getvalue()), ("", ""))
 
 
