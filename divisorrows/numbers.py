@@ -4,6 +4,8 @@ REFUSED = -2
 NONE_THERE = -5
 GREATEST = 1000000000
 MOST_STEPS = 64
+GREATEST_START = 1000000
+GREATEST_EXPONENT = 1024
 
 RICH = 2
 JUST = 1
@@ -40,6 +42,24 @@ def round_of(n):
     if n not in led_to:
         return [NONE_THERE]
     return [led_to.index(n) + 1]
+
+
+def next_rich(n, odd):
+    """The least rich number greater than n, or, if odd is 1, the least odd one; or the refusal."""
+    if not in_range(n, 0, GREATEST_START) or not in_range(odd, 0, 1):
+        return [REFUSED]
+    if odd == 1:
+        return [first_rich(following_odd(n), 2)]
+    return [first_rich(n + 1, 1)]
+
+
+def power(p):
+    """1 if 2 to the p, less 1, is a prime, else 0; or the refusal."""
+    if not in_range(p, 1, GREATEST_EXPONENT):
+        return [REFUSED]
+    if gives_prime(p):
+        return [1]
+    return [0]
 
 
 def in_range(number, least, greatest):
@@ -98,3 +118,48 @@ def has_step(n):
 
 def rest_of(n):
     return total_of(n) - n
+
+
+def following_odd(n):
+    return n + 1 + n % 2
+
+
+def first_rich(start, gap):
+    """The first rich number of start, start + gap, start + 2 * gap and so on, for a gap of 1 or 2."""
+    # It ends: 945 is rich, so each multiple of it is, and every second one of them is odd.
+    found = start
+    while kind_of(found) != RICH:
+        found = found + gap
+    return found
+
+
+def gives_prime(p):
+    """Whether 2 to the p, less 1, is a prime, for any p from 1 on."""
+    # Where a divides p, 2 to the a, less 1, divides 2 to the p, less 1: so p must be a prime itself.
+    if not is_prime(p):
+        return False
+    # Lucas and Lehmer's row tells of odd primes alone.
+    if p == 2:
+        return True
+    return lucas_lehmer_last(p) == 0
+
+
+def is_prime(n):
+    # Only 1 and itself divide a prime; 1 has a total of 1.
+    return total_of(n) == n + 1
+
+
+def lucas_lehmer_last(p):
+    """The last of Lucas and Lehmer's row for p, an odd prime: 0 if 2 to the p, less 1, is a prime, and only then."""
+    modulus = two_to(p) - 1
+    last = 4
+    for turn in range(p - 2):
+        last = (last * last - 2) % modulus
+    return last
+
+
+def two_to(exponent):
+    product = 1
+    for turn in range(exponent):
+        product = product * 2
+    return product

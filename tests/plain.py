@@ -1,4 +1,4 @@
-"""Totals and steps found in plain ways, to hold the program's answers against."""
+"""Totals, steps, rich numbers and primes found in plain ways, to hold the program's answers against."""
 
 import math
 
@@ -68,3 +68,26 @@ def counted_round(n, total=paired_total):
     """The least number of steps, 1 to 64, that lead from n to n, or -5."""
     led_to = counted_steps(n, 64, total)
     return min((i + 1 for i, reached in enumerate(led_to) if reached == n), default=-5)
+
+
+def counted_next(n, odd, total=paired_total):
+    """The least rich number greater than n; if odd is 1, the least odd one."""
+    while True:
+        n += 1
+        if (odd == 0 or n % 2 == 1) and total(n) > 2 * n:
+            return n
+
+
+def shown_composite(n, base):
+    """Whether Miller's test to this base shows that odd n is no prime; of a prime, it never does."""
+    halvings, odd_part = 0, n - 1
+    while odd_part % 2 == 0:
+        halvings, odd_part = halvings + 1, odd_part // 2
+    reached = pow(base, odd_part, n)
+    if reached in (1, n - 1):
+        return False
+    for i in range(halvings - 1):
+        reached = reached * reached % n
+        if reached == n - 1:
+            return False
+    return True

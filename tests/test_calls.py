@@ -11,9 +11,18 @@ NUMBERS = (1, 2, 6, 8, 12, 25, 28, 220, 276, 562, 945, 8128, 12496, 14316, 31607
 OF_ONE = (numbers.total, numbers.kind, numbers.round_of)
 STEPS = (0, 1, 2, 64, -1, 65, -2147483648, 2147483647)
 
+STARTS = (0, 1, 6, 11, 12, 28, 944, 945, 1575, 999999, 1000000)
+OUT_OF_STARTS = (-1, 1000001, -2147483648, 2147483647)
+ODD = (0, 1)
+OUT_OF_ODD = (-1, 2, -2147483648, 2147483647)
+EXPONENTS = (1, 2, 3, 4, 9, 11, 31, 127, 521, 607, 1021, 1023, 1024)
+OUT_OF_EXPONENTS = (0, -1, 1025, -2147483648, 2147483647)
+
 # Each call with what is handed in.
 ASKED = [(call, (n,)) for call in OF_ONE for n in NUMBERS + OUT_OF_RANGE]
 ASKED += [(numbers.chain, (n, k)) for n in NUMBERS + OUT_OF_RANGE for k in STEPS]
+ASKED += [(numbers.next_rich, (n, odd)) for n in STARTS + OUT_OF_STARTS for odd in ODD + OUT_OF_ODD]
+ASKED += [(numbers.power, (p,)) for p in EXPONENTS + OUT_OF_EXPONENTS]
 
 
 class Given(unittest.TestCase):
@@ -32,6 +41,11 @@ class Given(unittest.TestCase):
             for k in (0, 1, 2, 64):
                 answer = numbers.chain(n, k)
                 self.assertEqual(len(answer), answer[0] + 1, (n, k))
+        for n in STARTS:
+            for odd in ODD:
+                self.assertEqual(len(numbers.next_rich(n, odd)), 1, (n, odd))
+        for p in EXPONENTS:
+            self.assertEqual(len(numbers.power(p)), 1, p)
 
     def test_a_refusal_is_alone(self):
         for call in OF_ONE:
@@ -40,12 +54,20 @@ class Given(unittest.TestCase):
         for n in OUT_OF_RANGE:
             for k in STEPS:
                 self.assertEqual(numbers.chain(n, k), [-2], (n, k))
+        for n in STARTS + OUT_OF_STARTS:
+            for odd in ODD + OUT_OF_ODD:
+                if n in OUT_OF_STARTS or odd in OUT_OF_ODD:
+                    self.assertEqual(numbers.next_rich(n, odd), [-2], (n, odd))
+        for p in OUT_OF_EXPONENTS:
+            self.assertEqual(numbers.power(p), [-2], p)
 
     def test_arguments_by_name(self):
         self.assertEqual(numbers.total(n=12), [0, 28])
         self.assertEqual(numbers.kind(n=12), [2])
         self.assertEqual(numbers.chain(k=2, n=12), [2, 16, 15])
         self.assertEqual(numbers.round_of(n=220), [2])
+        self.assertEqual(numbers.next_rich(odd=1, n=12), [945])
+        self.assertEqual(numbers.power(p=7), [1])
 
 
 class NothingKept(unittest.TestCase):
