@@ -6,6 +6,8 @@ GREATEST = 1000000000
 MOST_STEPS = 64
 GREATEST_START = 1000000
 GREATEST_EXPONENT = 1024
+GREATEST_SUM = 1000000
+MOST_TIMES = 5
 
 RICH = 2
 JUST = 1
@@ -60,6 +62,20 @@ def power(p):
     if gives_prime(p):
         return [1]
     return [0]
+
+
+def two(n):
+    """The least rich a for which n - a is rich, too, and no less than a, or -5; or the refusal."""
+    if not in_range(n, 1, GREATEST_SUM):
+        return [REFUSED]
+    return [lesser_rich_part(n)]
+
+
+def times(k):
+    """The least number whose total is at least k times itself; or the refusal."""
+    if not in_range(k, 1, MOST_TIMES):
+        return [REFUSED]
+    return [least_with_times(k)]
 
 
 def in_range(number, least, greatest):
@@ -163,3 +179,65 @@ def two_to(exponent):
     for turn in range(exponent):
         product = product * 2
     return product
+
+
+def lesser_rich_part(n):
+    """The lesser of the two rich numbers that are n together, as little as it can be; -5 if no two are."""
+    part = first_rich(1, 1)
+    while part <= n - part:
+        if kind_of(n - part) == RICH:
+            return part
+        part = first_rich(part + 1, 1)
+    return NONE_THERE
+
+
+def least_with_times(k):
+    """The least number whose total is at least k times itself, for any k from 1 on."""
+    # It ends: measured by the number, the totals of 2, 2 * 3, 2 * 3 * 5 and so on pass every bound.
+    limit = 1
+    found = with_times_up_to(k, limit)
+    while len(found) == 0:
+        limit = limit * 2
+        found = with_times_up_to(k, limit)
+    return min(found)
+
+
+def with_times_up_to(k, limit):
+    """Those up to limit whose total is at least k times themselves, of the numbers that may be the least such."""
+    return [n for n in falling_up_to(limit) if total_of(n) >= k * n]
+
+
+def falling_up_to(limit):
+    """All numbers up to limit made of the first primes alone, none of them more often than a lesser one."""
+    # The least number whose total is at least k times itself is one of these: in any other, put a lesser prime that
+    # isn't there for a greater one, or let two primes change places where the greater stands more often. Either
+    # makes the number less, and its total, measured by the number, greater.
+    falling = [1]
+    for beginning in beginnings_up_to(limit):
+        grown = []
+        for start in falling:
+            product = start
+            while product <= limit:
+                grown.append(product)
+                product = product * beginning
+        falling = grown
+    return falling
+
+
+def beginnings_up_to(limit):
+    """2, 2 * 3, 2 * 3 * 5 and so on: the products of the first primes, up to limit."""
+    beginnings = []
+    prime = 2
+    product = prime
+    while product <= limit:
+        beginnings.append(product)
+        prime = following_prime(prime)
+        product = product * prime
+    return beginnings
+
+
+def following_prime(n):
+    found = n + 1
+    while not is_prime(found):
+        found = found + 1
+    return found

@@ -91,3 +91,35 @@ def shown_composite(n, base):
         if reached == n - 1:
             return False
     return True
+
+
+def first_two(n, rich):
+    """The least rich a for which n - a is rich, too, and no less than a, or -5; rich says of each number if it is."""
+    return next((a for a in range(1, n // 2 + 1) if rich[a] and rich[n - a]), -5)
+
+
+def all_with_times(k, limit, n=1, its_total=1, least_prime=2):
+    """All n * m up to limit with a total of at least k times themselves, where m holds primes from least_prime on.
+
+    It leaves out only what can't reach k times: by each prime q, measured by the number, the total grows by less than
+    q / (q - 1), and the primes of m, together, are at most limit // n.
+    """
+    found = [n] if its_total >= k * n else []
+    p = least_prime
+    while n * p <= limit and may_reach(k, limit, n, its_total, p):
+        if is_prime(p):
+            held, power_total = n * p, p + 1
+            while held <= limit:
+                found += all_with_times(k, limit, held, its_total * power_total, p + 1)
+                held, power_total = held * p, power_total * p + 1
+        p += 1
+    return found
+
+
+def may_reach(k, limit, n, its_total, least_prime):
+    above, below, held, q = its_total, n, n, least_prime
+    while held * q <= limit:
+        if is_prime(q):
+            above, below, held = above * q, below * (q - 1), held * q
+        q += 1
+    return above >= k * below

@@ -17,12 +17,18 @@ ODD = (0, 1)
 OUT_OF_ODD = (-1, 2, -2147483648, 2147483647)
 EXPONENTS = (1, 2, 3, 4, 9, 11, 31, 127, 521, 607, 1021, 1023, 1024)
 OUT_OF_EXPONENTS = (0, -1, 1025, -2147483648, 2147483647)
+SUMS = (1, 23, 24, 25, 36, 40, 46, 955, 956, 957, 1897, 9997, 9999, 10000, 1000000)
+OUT_OF_SUMS = (0, -1, 1000001, -2147483648, 2147483647)
+TIMES = (1, 2, 3, 4, 5)
+OUT_OF_TIMES = (0, -1, 6, -2147483648, 2147483647)
 
 # Each call with what is handed in.
 ASKED = [(call, (n,)) for call in OF_ONE for n in NUMBERS + OUT_OF_RANGE]
 ASKED += [(numbers.chain, (n, k)) for n in NUMBERS + OUT_OF_RANGE for k in STEPS]
 ASKED += [(numbers.next_rich, (n, odd)) for n in STARTS + OUT_OF_STARTS for odd in ODD + OUT_OF_ODD]
 ASKED += [(numbers.power, (p,)) for p in EXPONENTS + OUT_OF_EXPONENTS]
+ASKED += [(numbers.two, (n,)) for n in SUMS + OUT_OF_SUMS]
+ASKED += [(numbers.times, (k,)) for k in TIMES + OUT_OF_TIMES]
 
 
 class Given(unittest.TestCase):
@@ -46,6 +52,10 @@ class Given(unittest.TestCase):
                 self.assertEqual(len(numbers.next_rich(n, odd)), 1, (n, odd))
         for p in EXPONENTS:
             self.assertEqual(len(numbers.power(p)), 1, p)
+        for n in SUMS:
+            self.assertEqual(len(numbers.two(n)), 1, n)
+        for k in TIMES:
+            self.assertEqual(len(numbers.times(k)), 1, k)
 
     def test_a_refusal_is_alone(self):
         for call in OF_ONE:
@@ -60,6 +70,10 @@ class Given(unittest.TestCase):
                     self.assertEqual(numbers.next_rich(n, odd), [-2], (n, odd))
         for p in OUT_OF_EXPONENTS:
             self.assertEqual(numbers.power(p), [-2], p)
+        for n in OUT_OF_SUMS:
+            self.assertEqual(numbers.two(n), [-2], n)
+        for k in OUT_OF_TIMES:
+            self.assertEqual(numbers.times(k), [-2], k)
 
     def test_arguments_by_name(self):
         self.assertEqual(numbers.total(n=12), [0, 28])
@@ -68,6 +82,8 @@ class Given(unittest.TestCase):
         self.assertEqual(numbers.round_of(n=220), [2])
         self.assertEqual(numbers.next_rich(odd=1, n=12), [945])
         self.assertEqual(numbers.power(p=7), [1])
+        self.assertEqual(numbers.two(n=24), [12])
+        self.assertEqual(numbers.times(k=3), [120])
 
 
 class NothingKept(unittest.TestCase):
